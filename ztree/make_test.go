@@ -226,7 +226,7 @@ func alike(a, b api.Result) bool {
 		a.Stat == b.Stat && slices.Equal(a.Names, b.Names) && a.Session == b.Session && slices.EqualFunc(a.Results, b.Results, alike)
 }
 
-// errors are the errors of a Multi's results, which then must have nothing else.
+// errorsOf are the errors of a Multi's results, which then must have nothing else.
 func errorsOf(t *testing.T, x api.Result) []api.Errno {
 	t.Helper()
 	var l []api.Errno

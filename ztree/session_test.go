@@ -117,7 +117,7 @@ func TestClose(t *testing.T) {
 	}
 }
 
-// TestCloseAsks nobody: what a Close takes away is like a Delete that nothing refuses.
+// TestCloseAsksNobody: what a Close takes away is like a Delete that nothing refuses.
 func TestCloseAsksNobody(t *testing.T) {
 	p := &play{t, from(t, sessions, node("/", counts(1), keeps("1 name:ann"), versions(0, -2, 0)), node("/e", owned(first), versions(5, 6, 7), keeps("1 name:bob")))}
 	p.refuses(remove("/e", -1), api.ErrAuth)
