@@ -7,6 +7,7 @@ import (
 
 	"lagoon/api"
 	"lagoon/packet"
+	"lagoon/txn"
 )
 
 // chance drives a world by numbers that are the same in each run.
@@ -276,7 +277,9 @@ func TestByChance(t *testing.T) {
 	for i, c := range configs() {
 		for run := range uint64(40) {
 			w := begun(t, c)
-			w.told = func(_ int8, o api.Output, _ api.Errno) {
+			had := make([]api.View, len(w.all))
+			w.told = func(n int8, o api.Output, _ api.Errno) {
+				had[n] = follows(t, w, n, had[n])
 				for _, f := range o.Facts {
 					seen[f.Kind]++
 					ways[f.Way]++
@@ -297,4 +300,21 @@ func TestByChance(t *testing.T) {
 		t.Errorf("not all ways were gone: %v", ways)
 	}
 	t.Log(seen, ways)
+}
+
+// follows looks at what is never otherwise, whatever comes.
+func follows(t *testing.T, w *world, n int8, had api.View) api.View {
+	t.Helper()
+	if !w.all[n].s.Up() {
+		return had
+	}
+	v := w.view(n)
+	falls := v.Durable.Boot == had.Durable.Boot && txn.Compare(v.Delivered, had.Delivered) < 0
+	if v.Durable.Accepted < had.Durable.Accepted || v.Durable.Current < had.Durable.Current || v.Durable.Current > v.Durable.Accepted {
+		t.Fatalf("P24: the epochs of server %d are %+v, were %+v", n, v.Durable, had.Durable)
+	}
+	if falls || txn.Compare(v.Delivered, v.Committed) > 0 || txn.Compare(v.Delivered, v.Durable.Snap) < 0 {
+		t.Fatalf("P24: server %d has delivered up to %v, had up to %v: %+v", n, v.Delivered, had.Delivered, v)
+	}
+	return v
 }

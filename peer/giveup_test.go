@@ -160,13 +160,16 @@ func TestWaitsForItsOwn(t *testing.T) {
 	}
 	// And one that bears another start's number.
 	x := api.Packet{Kind: api.PForward, Conn: api.Conn{Boot: 1, Try: 1}, Lead: api.Conn{Boot: 1, Try: 1}, Place: 7, Txn: api.Txn{From: api.Origin{Server: 0, Boot: 2, Number: 2}, Req: create("/x")}}
-	w.write(0, create("/own"))
-	for _, boot := range []uint32{2, 0, 1} {
+	for _, boot := range []uint32{2, 0} {
 		x.Txn.From.Boot = boot
-		paths = map[int8]string{}
-		w.tells(packetTo{from: 1, to: 0, p: x})
+		o, _ := w.tells(packetTo{from: 1, to: 0, p: x})
+		if len(o.Facts) != 1 || o.Facts[0].Kind != api.FactProposed {
+			t.Fatalf("P24.4: a forward: %s", outputText(o))
+		}
 		x.Place++
 	}
+	w.write(0, create("/own")) // of that number; it waits while these are delivered
+	paths = map[int8]string{}
 	w.settle()
 	if paths[0] != "/own" {
 		t.Errorf("P24.1: answered behind a write of another start: %v", paths)

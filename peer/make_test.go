@@ -224,6 +224,9 @@ func (p *pair) step(t testing.TB, in api.Input) (api.Output, api.Errno) {
 	p.agrees(t, "Do("+inputText(in)+")")
 	out := cloneOutput(o)
 	spoilInput(own)
+	if !sameOutput(o, out) {
+		t.Fatalf("R5: server %d: what Do(%s) tells shares memory with it", p.me, inputText(in))
+	}
 	spoilOutput(o)
 	p.agrees(t, "R5: behind writing over what was handed in and answered")
 	return out, e

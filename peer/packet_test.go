@@ -116,12 +116,34 @@ func seen(w *world, n int8) string {
 	return fmt.Sprintf("%+v %v %d", v, w.all[n].d.Writes(), len(w.net))
 }
 
-// goesOn tells the receiver the rest of a bringing up, and more: what a dropped packet has changed in secret is seen here.
+// goesOn tells the receiver the rest of a bringing up, and more: what a dropped packet has changed in secret is seen here. A leader is established by others then, and takes all that server 1 may say once more.
 func (w *world) goesOn(to int8) {
-	for _, kind := range []int8{api.PAckEpoch, api.PAckLeader, api.PAck, api.PPing, api.PForward, api.PEpoch, api.PNewLeader, api.PUpToDate, api.PPropose, api.PCommit} {
-		for at := range int64(7) {
-			w.tells(packetTo{from: 1 - to, to: to, p: right1(kind, at)})
+	w.tellsAll(to)
+	if to != 0 {
+		return
+	}
+	for n := int8(2); int(n) < len(w.all); n++ {
+		for at, kind := range []int8{api.PInfo, api.PAckEpoch, api.PAckLeader} {
+			p := right1(kind, int64(at))
+			p.Conn.Try = 9
+			w.tells(packetTo{from: n, to: 0, p: p})
 		}
+	}
+	w.write(0, create("/x"))
+	w.tellsAll(0)
+}
+
+// tellsAll tells packets of each kind, at no place but the one that is the next by the model.
+func (w *world) tellsAll(to int8) {
+	for _, kind := range []int8{api.PAckEpoch, api.PAckLeader, api.PForward, api.PAck, api.PPing, api.PEpoch, api.PNewLeader, api.PUpToDate, api.PPropose, api.PCommit} {
+		at := int64(0)
+		if l := w.all[to].m.l; l != nil && l.of[1] != nil {
+			at = l.of[1].from
+		}
+		if f := w.all[to].m.f; f != nil {
+			at = f.from
+		}
+		w.tells(packetTo{from: 1 - to, to: to, p: right1(kind, at)})
 	}
 }
 
